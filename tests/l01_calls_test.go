@@ -126,11 +126,19 @@ func overwrite[T any](list []T, with T) {
 
 func TestCallsOfSeveralGoroutines(t *testing.T) {
 	g, h, none := impl.Graph{N: 5, Edges: 0b1001101011}, impl.Graph{N: 3, Edges: 5}, []impl.Graph{{N: 3, Edges: 7}}
-	want := fmt.Sprint(calls1(g, h, 4, 2, []int64{4, 3, 2, 1, 0}, [][2]int64{{3, 0}}, none, "graph 2 0-1"))
+	checkGoroutines(t, func() string {
+		return fmt.Sprint(calls1(g, h, 4, 2, []int64{4, 3, 2, 1, 0}, [][2]int64{{3, 0}}, none, "graph 2 0-1"))
+	})
+}
+
+// checkGoroutines fails unless several goroutines get the result that one gets.
+func checkGoroutines(t *testing.T, call func() string) {
+	t.Helper()
+	want := call()
 	var group sync.WaitGroup
 	for range 8 {
 		group.Go(func() {
-			if got := fmt.Sprint(calls1(g, h, 4, 2, []int64{4, 3, 2, 1, 0}, [][2]int64{{3, 0}}, none, "graph 2 0-1")); got != want {
+			if got := call(); got != want {
 				t.Errorf("got %s, want %s", got, want)
 			}
 		})

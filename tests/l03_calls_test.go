@@ -4,7 +4,6 @@ import (
 	"fmt"
 	"slices"
 	"strings"
-	"sync"
 	"testing"
 
 	"loop.example/g01169/impl"
@@ -112,16 +111,7 @@ func TestFlagCallsOfSeveralGoroutines(t *testing.T) {
 		f, none := impl.Flag{Labels: 2, Graph: impl.Graph{N: 4, Edges: 0b101100}}, []impl.Graph{{N: 3, Edges: 7}}
 		return fmt.Sprint(calls3(f, f, 2, []int64{1, 0}, []impl.Flag{{}, f}, none, "flag 1 graph 2 0-1"), calls3(impl.Flag{Labels: 1, Graph: impl.Graph{N: 1}}, f, 3, []int64{0}, []impl.Flag{f}, none, ""))
 	}
-	want := call()
-	var group sync.WaitGroup
-	for range 8 {
-		group.Go(func() {
-			if got := call(); got != want {
-				t.Errorf("got %s, want %s", got, want)
-			}
-		})
-	}
-	group.Wait()
+	checkGoroutines(t, call)
 }
 
 // The greatest arguments for which every function has to return.

@@ -3,7 +3,6 @@ package tests
 import (
 	"fmt"
 	"slices"
-	"sync"
 	"testing"
 
 	"loop.example/g01169/impl"
@@ -107,16 +106,7 @@ func TestDensityCallsOfSeveralGoroutines(t *testing.T) {
 		g := impl.Flag{Labels: 1, Graph: impl.Graph{N: 4, Edges: 0b101100}}
 		return fmt.Sprint(calls4(edge, gap, g, 3, []impl.Flag{edge, gap}), calls4(impl.Flag{}, impl.Flag{}, impl.Flag{Graph: g.Graph}, 2, nil))
 	}
-	want := call()
-	var group sync.WaitGroup
-	for range 8 {
-		group.Go(func() {
-			if got := call(); got != want {
-				t.Errorf("got %s, want %s", got, want)
-			}
-		})
-	}
-	group.Wait()
+	checkGoroutines(t, call)
 }
 
 // The greatest arguments for which every function has to return.
